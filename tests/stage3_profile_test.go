@@ -652,16 +652,20 @@ func TestPromise3ShareIsThatOfTheFirstRanked(t *testing.T) {
 	}
 }
 
-// shareNone fills each list up to its capacity, and asks whether another one has changed by that.
 func shareNone(t *testing.T, name string, lists ...[]int) {
+	shareNoneOf(t, name, func(i int) int { return -7777 - i }, lists...)
+}
+
+// shareNoneOf fills each list up to its capacity, and asks whether another one has changed by that.
+func shareNoneOf[T comparable](t *testing.T, name string, fill func(i int) T, lists ...[]T) {
 	for i, l := range lists {
-		var before [][]int
+		var before [][]T
 		for _, other := range lists {
 			before = append(before, slices.Clone(other))
 		}
 		whole := l[:cap(l)]
 		for j := range whole {
-			whole[j] = -7777 - i
+			whole[j] = fill(i)
 		}
 		for k, other := range lists {
 			if k != i && !slices.Equal(other, before[k]) {
