@@ -854,6 +854,7 @@ func areAsBefore(t *testing.T, cut []impl.Move, plain []impl.Move, behind impl.M
 
 // movesHangOn tells whether a function of moves answers otherwise for cut than for plain ones.
 func movesHangOn(at []int, l []impl.Move, cut []int, cutL []impl.Move) bool {
+	at, l = slices.Clone(at), slices.Clone(l)
 	done, doneOk := impl.DoMoves(at, l)
 	cutDone, cutDoneOk := impl.DoMoves(cut, cutL)
 	back, backOk := impl.BackMoves(l)
@@ -863,6 +864,7 @@ func movesHangOn(at []int, l []impl.Move, cut []int, cutL []impl.Move) bool {
 
 // relayHangsOn tells whether a function of spots and wanted ones answers otherwise for cut than for plain ones.
 func relayHangsOn(r relay, cut relay) bool {
+	r = relay{slices.Clone(r.at), slices.Clone(r.want)}
 	plan, planOk := impl.PlanMoves(r.at, r.want)
 	cutPlan, cutPlanOk := impl.PlanMoves(cut.at, cut.want)
 	needed, neededOk := impl.MovesNeeded(r.at, r.want)
@@ -881,7 +883,7 @@ func TestPromise19NoSpotsOrMovesAreWritten(t *testing.T) {
 		}
 		for _, behind := range []int{-1, 0, 1, 21} {
 			cut := cutList(at, behind)
-			if impl.GoodSpots(cut) != impl.GoodSpots(at) {
+			if impl.GoodSpots(cut) != impl.GoodSpots(slices.Clone(at)) {
 				t.Errorf("GoodSpots(%v) hangs on what lies behind them", at)
 			}
 			for _, l := range lists {
@@ -891,7 +893,7 @@ func TestPromise19NoSpotsOrMovesAreWritten(t *testing.T) {
 					t.Errorf("what is told of %v and %v hangs on what lies behind them", at, l)
 				}
 				if len(l) > 0 {
-					got, ok := impl.DoMove(at, l[0])
+					got, ok := impl.DoMove(slices.Clone(at), l[0])
 					if cutGot, cutOk := impl.DoMove(cut, l[0]); !slices.Equal(got, cutGot) || ok != cutOk {
 						t.Errorf("DoMove(%v, %v) hangs on what lies behind them", at, l[0])
 					}

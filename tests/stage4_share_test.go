@@ -625,8 +625,9 @@ func cutList(l []int, behind int) []int {
 	return append(slices.Clone(l), behind, behind)[:len(l)]
 }
 
-// countsHangOn tells whether a function of flow and counts answers otherwise for cut than for plain ones.
+// countsHangOn tells whether a function of flow and counts answers otherwise for cut than for plain ones. The plain ones are not handed out themselves: what is written into cut ones is held against them.
 func countsHangOn(flow []int, counts []int, cutFlow []int, cutCounts []int) bool {
+	flow, counts = slices.Clone(flow), slices.Clone(counts)
 	cost, costOk := impl.CostOf(flow, counts)
 	next, nextOk := impl.NextFor(flow, counts)
 	stable, stableOk := impl.IsStable(flow, counts)
@@ -645,6 +646,7 @@ func countsHangOn(flow []int, counts []int, cutFlow []int, cutCounts []int) bool
 
 // placesHangOn tells whether a function of flow and places answers otherwise for cut than for plain ones.
 func placesHangOn(flow []int, cutFlow []int, places int) bool {
+	flow = slices.Clone(flow)
 	counts, ok := impl.ShareOut(flow, places)
 	more, moreOk := impl.ShareMore(flow, places)
 	cutCounts, cutOk := impl.ShareOut(cutFlow, places)
@@ -655,7 +657,7 @@ func placesHangOn(flow []int, cutFlow []int, places int) bool {
 func TestPromise19NoFlowOrCountsAreWritten(t *testing.T) {
 	flows := append(wrongFlows(), greatFlows()...)
 	for _, flow := range flows {
-		countsLists := [][]int{nil, {1}, slices.Repeat([]int{1}, len(flow)), slices.Repeat([]int{5}, len(flow)), slices.Repeat([]int{1}, len(flow)+1), make([]int, len(flow))}
+		countsLists := [][]int{nil, {1}, slices.Repeat([]int{1}, len(flow)), slices.Repeat([]int{5}, len(flow)), countUp(len(flow) + 1)[1:], slices.Repeat([]int{1}, len(flow)+1), make([]int, len(flow))}
 		for _, behind := range []int{-1, 1, 31} {
 			cutFlow := cutList(flow, behind)
 			for _, counts := range countsLists {

@@ -634,6 +634,7 @@ func TestPromise19PartsShareNothing(t *testing.T) {
 
 // roomHangsOn tells whether a function of flow and room answers otherwise for a cut flow than for a plain one.
 func roomHangsOn(flow []int, cutFlow []int, room int) bool {
+	flow = slices.Clone(flow)
 	for _, p := range partings {
 		got, ok := p.ours(flow, room)
 		cut, cutOk := p.ours(cutFlow, room)
@@ -655,9 +656,9 @@ func TestPromise19NoFlowOrPartsAreWritten(t *testing.T) {
 	for _, flow := range append(wrongFlows(), greatFlows()...) {
 		for _, behind := range []int{-1, 1, 31, 1001} {
 			cutFlow := cutList(flow, behind)
-			for _, shares := range [][]int{nil, {1}, slices.Repeat([]int{1}, len(flow)), slices.Repeat([]int{997}, len(flow)), slices.Repeat([]int{1}, len(flow)+1), make([]int, len(flow))} {
+			for _, shares := range [][]int{nil, {1}, slices.Repeat([]int{1}, len(flow)), slices.Repeat([]int{997}, len(flow)), countUp(len(flow) + 1)[1:], slices.Repeat([]int{1}, len(flow)+1), make([]int, len(flow))} {
 				cutShares := cutList(shares, behind)
-				want, wantOk := impl.FluidCost(flow, shares)
+				want, wantOk := impl.FluidCost(slices.Clone(flow), slices.Clone(shares))
 				if got, ok := impl.FluidCost(cutFlow, cutShares); got != want || ok != wantOk {
 					t.Errorf("FluidCost of %v and %v hangs on what lies behind them", flow, shares)
 				}

@@ -683,6 +683,7 @@ func fullOffers(cut []impl.Offer) []impl.Offer {
 
 // choiceHangsOn tells whether a function of offers and places answers otherwise for cut than for plain ones.
 func choiceHangsOn(l []impl.Offer, cut []impl.Offer, places int) bool {
+	l = cloneOffers(l)
 	table, tableOk := impl.BestTable(l, places)
 	cutTable, cutTableOk := impl.BestTable(cut, places)
 	counts, most, ok := impl.BestChoice(l, places)
@@ -709,9 +710,9 @@ func TestPromise19NoOffersOrCountsAreWritten(t *testing.T) {
 					t.Errorf("%v and %d places hang on what lies behind", l, places)
 				}
 			}
-			for _, counts := range [][]int{nil, make([]int, len(l)), slices.Repeat([]int{1}, len(l)), slices.Repeat([]int{6}, len(l)), make([]int, len(l)+1)} {
+			for _, counts := range [][]int{nil, make([]int, len(l)), slices.Repeat([]int{1}, len(l)), slices.Repeat([]int{6}, len(l)), countUp(len(l)), make([]int, len(l)+1)} {
 				cutCounts := cutList(counts, behind)
-				want, wantOk := impl.ValueOf(l, counts)
+				want, wantOk := impl.ValueOf(cloneOffers(l), slices.Clone(counts))
 				if got, ok := impl.ValueOf(cut, cutCounts); got != want || ok != wantOk {
 					t.Errorf("ValueOf(%v, %v) hangs on what lies behind them", l, counts)
 				}

@@ -860,6 +860,7 @@ func isAsBefore(t *testing.T, cut []int, plain []int, behind int) {
 
 // orderHangsOn tells whether a function of an order answers otherwise for cut than for plain lists.
 func orderHangsOn(s stock, order []int, cut stock, cutOrder []int) bool {
+	s, order = stock{slices.Clone(s.use), slices.Clone(s.way)}, slices.Clone(order)
 	cost, costOk := impl.OrderCost(s.use, s.way, order)
 	cutCost, cutCostOk := impl.OrderCost(cut.use, cut.way, cutOrder)
 	rings, ringsOk := impl.CyclesIn(order)
@@ -883,6 +884,7 @@ func orderHangsOn(s stock, order []int, cut stock, cutOrder []int) bool {
 
 // stockHangsOn tells whether a function of uses and ways alone answers otherwise for cut than for plain lists.
 func stockHangsOn(s stock, cut stock) bool {
+	s = stock{slices.Clone(s.use), slices.Clone(s.way)}
 	pairs, pairsOk := impl.PairCost(s.use, s.way)
 	cutPairs, cutPairsOk := impl.PairCost(cut.use, cut.way)
 	order, ok := impl.OrderFor(s.use, s.way)
@@ -917,13 +919,13 @@ func TestPromise19NoFamiliesAreWritten(t *testing.T) {
 			full := append(slices.Clone(l), behind, behind)
 			before := slices.Clone(full)
 			cut := full[:len(l)]
-			want, wantOk := impl.SmithOrder(l)
+			want, wantOk := impl.SmithOrder(slices.Clone(l))
 			if got, ok := impl.SmithOrder(cut); !slices.Equal(got, want) || ok != wantOk {
 				t.Errorf("SmithOrder(%v) hangs on what lies behind", l)
 			}
 			for _, order := range [][]int{nil, countUp(len(l)), countDown(len(l)), countUp(len(l) + 1), make([]int, len(l))} {
 				cutOrder := cutList(order, len(l))
-				want, wantOk := impl.SmithCost(l, order)
+				want, wantOk := impl.SmithCost(slices.Clone(l), slices.Clone(order))
 				if got, ok := impl.SmithCost(cut, cutOrder); got != want || ok != wantOk {
 					t.Errorf("SmithCost(%v, %v) hangs on what lies behind them", l, order)
 				}

@@ -897,6 +897,7 @@ func fitsHangOn(f [][]bool, cut [][]bool) bool {
 
 // matchingHangsOn tells whether a function of a list answers otherwise for cut than for plain ones.
 func matchingHangsOn(f [][]bool, l []int, cut [][]bool, cutL []int) bool {
+	l = slices.Clone(l)
 	is, ok := impl.IsMatching(f, l)
 	cutIs, cutOk := impl.IsMatching(cut, cutL)
 	count, countOk := impl.CountIn(l)

@@ -876,6 +876,7 @@ func costsHangOn(c [][]int, cut [][]int) bool {
 
 // pricesHangOn tells whether a function of prices answers otherwise for cut than for plain ones.
 func pricesHangOn(c [][]int, p impl.Prices, cut [][]int, cutP impl.Prices) bool {
+	p = pricesOf(slices.Clone(p.Loads), slices.Clone(p.Bins))
 	hold, holdOk := impl.PricesHold(c, p)
 	cutHold, cutHoldOk := impl.PricesHold(cut, cutP)
 	tight, tightOk := impl.TightAt(c, p)
@@ -905,7 +906,7 @@ func TestPromise19NoCostsFitsOrPricesAreWritten(t *testing.T) {
 			}
 			for _, fit := range [][]int{nil, countUp(len(c)), countDown(len(c)), oneRing(len(c)), countUp(len(c) + 1), make([]int, len(c))} {
 				cutFit := cutList(fit, behind)
-				cost, ok := impl.FitCost(c, fit)
+				cost, ok := impl.FitCost(c, slices.Clone(fit))
 				if cutCost, cutOk := impl.FitCost(cut, cutFit); cutCost != cost || cutOk != ok {
 					t.Errorf("FitCost(%v, %v) hangs on what lies behind them", c, fit)
 				}
