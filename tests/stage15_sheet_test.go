@@ -64,17 +64,41 @@ func plainText(s impl.Sheet) string {
 }
 
 // plainFault is that of a line of words that are a Name and a number, behind what has been told.
-func plainFault(word string, name string, numbers map[string]int, lines int) int {
-	_, known := numbers[name]
+func plainFault(s impl.Sheet, word string, known bool) int {
 	switch {
 	case word == "good" && known:
 		return 4
 	case word == "pick" && !known:
 		return 5
-	case word == "good" && len(numbers) >= 12 || word == "pick" && lines >= 80:
+	case word == "good" && len(s.Goods) >= 12 || word == "pick" && len(s.Lines) >= 80:
 		return 6
 	}
 	return 0
+}
+
+// plainTold is the sheet with one more line, or as it was, and the code of the line's fault.
+func plainTold(s impl.Sheet, text string) (impl.Sheet, int) {
+	words := threeWords.FindStringSubmatch(text)
+	if words == nil {
+		return s, 1
+	}
+	form := map[string]*regexp.Regexp{"good": sizeForm, "pick": manyForm}[words[1]]
+	if !nameForm.MatchString(words[2]) {
+		return s, 2
+	}
+	if !form.MatchString(words[3]) {
+		return s, 3
+	}
+	number := slices.IndexFunc(s.Goods, func(g impl.Good) bool { return g.Name == words[2] })
+	if code := plainFault(s, words[1], number >= 0); code != 0 {
+		return s, code
+	}
+	n := 0
+	fmt.Sscan(words[3], &n)
+	if words[1] == "good" {
+		return sheet(append(slices.Clone(s.Goods), good(words[2], n)), s.Lines...), 0
+	}
+	return sheet(s.Goods, append(slices.Clone(s.Lines), line(number, n))...), 0
 }
 
 func plainParse(text string) (impl.Sheet, int, int, bool) {
@@ -82,34 +106,13 @@ func plainParse(text string) (impl.Sheet, int, int, bool) {
 		return impl.Sheet{}, 7, 0, false
 	}
 	var s impl.Sheet
-	numbers := map[string]int{}
 	at := 0
 	for l := range strings.Lines(text) {
-		words := threeWords.FindStringSubmatch(strings.TrimSuffix(l, "\n"))
-		if words == nil {
-			return impl.Sheet{}, 1, at, false
-		}
-		form := map[string]*regexp.Regexp{"good": sizeForm, "pick": manyForm}[words[1]]
-		code := 0
-		switch {
-		case !nameForm.MatchString(words[2]):
-			code = 2
-		case !form.MatchString(words[3]):
-			code = 3
-		default:
-			code = plainFault(words[1], words[2], numbers, len(s.Lines))
-		}
+		next, code := plainTold(s, strings.TrimSuffix(l, "\n"))
 		if code != 0 {
 			return impl.Sheet{}, code, at, false
 		}
-		n := 0
-		fmt.Sscan(words[3], &n)
-		if words[1] == "good" {
-			numbers[words[2]] = len(s.Goods)
-			s.Goods = append(s.Goods, good(words[2], n))
-		} else {
-			s.Lines = append(s.Lines, line(numbers[words[2]], n))
-		}
+		s = next
 		at++
 	}
 	return s, 0, 0, true
